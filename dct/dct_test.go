@@ -9,6 +9,7 @@ import (
 
 	"splicer/dct"
 	"splicer/fft"
+	"splicer/lists"
 	"splicer/num"
 	"splicer/trig"
 )
@@ -89,37 +90,6 @@ func fast(table *trig.Table, u []int) []int {
 	return out
 }
 
-// filled: n numbers, each told by its place.
-func filled(n int, at func(int) int) []int {
-	l := make([]int, n)
-	for i := range l {
-		l[i] = at(i)
-	}
-	return l
-}
-
-func same(x int) func(int) int { return func(int) int { return x } }
-
-// single: x at one place, and 0 at all others.
-func single(place, x int) func(int) int {
-	return func(i int) int {
-		if i == place {
-			return x
-		}
-		return 0
-	}
-}
-
-// drawn: numbers from -size to size.
-func drawn(rnd *rand.Rand, size int) func(int) int {
-	return func(int) int { return rnd.Intn(2*size+1) - size }
-}
-
-// edges: drawn numbers that are a bound each.
-func edges(rnd *rand.Rand, bound int) func(int) int {
-	return func(int) int { return bound - 2*bound*rnd.Intn(2) }
-}
-
 // signs: x each, with the sign of its angle's cosine: what makes the sum at k greatest, and its opposite least.
 func signs(table *trig.Table, n, k, x int) func(int) int {
 	return func(i int) int {
@@ -134,9 +104,9 @@ func signs(table *trig.Table, n, k, x int) func(int) int {
 // greatest and least, drawn ones.
 func inputs(table *trig.Table, n, bound int) [][]int {
 	var l [][]int
-	add := func(at func(int) int) { l = append(l, filled(n, at)) }
+	add := func(at func(int) int) { l = append(l, lists.Filled(n, at)) }
 	for _, x := range []int{0, 1, -1, 2, 7, -13, bound - 1, bound, 1 - bound, -bound} {
-		add(same(x))
+		add(lists.Same(x))
 	}
 	add(func(i int) int { return i + 1 })
 	add(func(i int) int { return 3 - 2*i })
@@ -145,7 +115,7 @@ func inputs(table *trig.Table, n, bound int) [][]int {
 	add(func(i int) int { return bound - 2*bound*(i%2) })
 	for place := range n {
 		for _, x := range []int{1, -3, 1000, bound - 1, bound, -bound} {
-			add(single(place, x))
+			add(lists.Single(place, x))
 		}
 	}
 	for k := range n {
@@ -155,12 +125,12 @@ func inputs(table *trig.Table, n, bound int) [][]int {
 	}
 	rnd := rand.New(rand.NewSource(int64(10 + n)))
 	for range 100 {
-		add(drawn(rnd, 1))
-		add(drawn(rnd, 9))
-		add(drawn(rnd, 1000))
-		add(drawn(rnd, 32768))
-		add(drawn(rnd, bound))
-		add(edges(rnd, bound))
+		add(lists.Drawn(rnd.Intn, -1, 1))
+		add(lists.Drawn(rnd.Intn, -9, 9))
+		add(lists.Drawn(rnd.Intn, -1000, 1000))
+		add(lists.Drawn(rnd.Intn, -32768, 32768))
+		add(lists.Drawn(rnd.Intn, -bound, bound))
+		add(lists.Either(rnd.Intn, bound, -bound))
 	}
 	return l
 }
@@ -209,14 +179,14 @@ func TestZero(t *testing.T) {
 // TestKnown: P10.1 and P10.2, of numbers whose sums can be told from the chapter's table of cosines by hand.
 func TestKnown(t *testing.T) {
 	table := trig.Make()
-	first := filled(8, single(0, 1<<12))
+	first := lists.Filled(8, lists.Single(0, 1<<12))
 	// 4096 times the cosines of 8, 24, 40 and so on to 120 parts.
 	checkSame(t, "Four", first, dct.Four(table, first), []int{4076, 3920, 3612, 3166, 2598, 1931, 1189, 401})
 	checkSame(t, "Back", first, dct.Back(table, first), []int{1019, 980, 903, 792, 650, 483, 297, 100})
-	last := filled(8, single(7, 1<<12)) // of 120, 360, 600 and so on: signs that come by turns
+	last := lists.Filled(8, lists.Single(7, 1<<12)) // of 120, 360, 600 and so on: signs that come by turns
 	checkSame(t, "Four", last, dct.Four(table, last), []int{401, -1189, 1931, -2598, 3166, -3612, 3920, -4076})
 	checkSame(t, "Fast", first, dct.Fast(table, first), fast(table, first))
-	wide := filled(64, single(0, 1<<24)) // the cosines of odd parts up to 127
+	wide := lists.Filled(64, lists.Single(0, 1<<24)) // the cosines of odd parts up to 127
 	got, back := dct.Four(table, wide), dct.Back(table, wide)
 	for k, want := range map[int]int{0: 16775953, 1: 16765847, 2: 16745643, 31: 12007971, 32: 11716809, 62: 617523, 63: 205882} {
 		if got[k] != want || back[k] != num.Shr(want, 5) {
@@ -233,10 +203,10 @@ func TestHalves(t *testing.T) {
 	}
 	for _, n := range counts() {
 		for x, want := range map[int]int{1: 1, -1: 0, 3: 2, -3: -1} {
-			l := filled(n, single(n/2, x))
-			checkSame(t, "Four", l, dct.Four(table, l), filled(n, same(want)))
-			l = filled(n, single(n/2, x*n/2))
-			checkSame(t, "Back", l, dct.Back(table, l), filled(n, same(want)))
+			l := lists.Filled(n, lists.Single(n/2, x))
+			checkSame(t, "Four", l, dct.Four(table, l), lists.Filled(n, lists.Same(want)))
+			l = lists.Filled(n, lists.Single(n/2, x*n/2))
+			checkSame(t, "Back", l, dct.Back(table, l), lists.Filled(n, lists.Same(want)))
 		}
 	}
 }
@@ -304,10 +274,10 @@ func TestTableGiven(t *testing.T) {
 		kept := *table
 		for _, n := range counts() {
 			for range 20 {
-				l := filled(n, drawn(rnd, maxSum))
+				l := lists.Filled(n, lists.Drawn(rnd.Intn, -maxSum, maxSum))
 				checkSame(t, "Four", l, dct.Four(table, l), sums(table, l, 24))
 				checkSame(t, "Back", l, dct.Back(table, l), sums(table, l, backBits(n)))
-				l = filled(n, drawn(rnd, maxFast))
+				l = lists.Filled(n, lists.Drawn(rnd.Intn, -maxFast, maxFast))
 				checkSame(t, "Fast", l, dct.Fast(table, l), fast(table, l))
 			}
 		}
@@ -326,7 +296,7 @@ func TestWildTable(t *testing.T) {
 		}
 		for _, c := range calls() {
 			for _, n := range counts() {
-				got := c.do(table, filled(n, drawn(rand.New(rand.NewSource(1)), c.bound)))
+				got := c.do(table, lists.Filled(n, lists.Drawn(rand.New(rand.NewSource(1)).Intn, -c.bound, c.bound)))
 				if len(got) != n && (c.name != "Fast" || got != nil) {
 					t.Errorf("%s of %d numbers has %d", c.name, n, len(got))
 				}
@@ -339,10 +309,10 @@ func TestWildTable(t *testing.T) {
 func TestNoTable(t *testing.T) {
 	for _, c := range calls() {
 		for _, n := range []int{0, 1, 8, 9, 64} {
-			checkNone(t, c, nil, filled(n, same(1)))
+			checkNone(t, c, nil, lists.Filled(n, lists.Same(1)))
 		}
 		checkNone(t, c, nil, nil)
-		checkNone(t, c, nil, filled(8, same(most)))
+		checkNone(t, c, nil, lists.Filled(8, lists.Same(most)))
 	}
 }
 
@@ -355,7 +325,7 @@ func TestNoBlock(t *testing.T) {
 		for n := range 301 {
 			if !slices.Contains(counts(), n) {
 				checkNone(t, c, table, make([]int, n))
-				checkNone(t, c, table, filled(n, same(1)))
+				checkNone(t, c, table, lists.Filled(n, lists.Same(1)))
 			}
 		}
 		for _, n := range []int{512, 1024, 4096, 65536} {
@@ -372,9 +342,9 @@ func TestNoNumber(t *testing.T) {
 		for _, n := range counts() {
 			for _, x := range bad {
 				for place := range n {
-					checkNone(t, c, table, filled(n, single(place, x)))
+					checkNone(t, c, table, lists.Filled(n, lists.Single(place, x)))
 				}
-				checkNone(t, c, table, filled(n, same(x)))
+				checkNone(t, c, table, lists.Filled(n, lists.Same(x)))
 			}
 		}
 	}
@@ -387,7 +357,7 @@ func TestAtBounds(t *testing.T) {
 		for _, n := range counts() {
 			for place := range n {
 				for _, x := range []int{c.bound, -c.bound} {
-					if got := c.do(table, filled(n, single(place, x))); len(got) != n {
+					if got := c.do(table, lists.Filled(n, lists.Single(place, x))); len(got) != n {
 						t.Fatalf("%s of %d at %d of %d numbers has %d", c.name, x, place, n, len(got))
 					}
 				}
@@ -402,7 +372,7 @@ func TestGivenStays(t *testing.T) {
 	rnd := rand.New(rand.NewSource(10))
 	for _, c := range calls() {
 		for _, n := range []int{7, 8, 64} {
-			l := filled(n, drawn(rnd, c.bound))
+			l := lists.Filled(n, lists.Drawn(rnd.Intn, -c.bound, c.bound))
 			kept := slices.Clone(l)
 			first, second := c.do(table, l), c.do(table, l)
 			keptSecond := slices.Clone(second)

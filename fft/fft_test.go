@@ -8,6 +8,7 @@ import (
 	"testing"
 
 	"splicer/fft"
+	"splicer/lists"
 	"splicer/trig"
 )
 
@@ -84,37 +85,6 @@ func trueSums(re, im []int) ([]int, []int) {
 	return a, b
 }
 
-// filled: n numbers, each told by its place.
-func filled(n int, at func(int) int) []int {
-	l := make([]int, n)
-	for i := range l {
-		l[i] = at(i)
-	}
-	return l
-}
-
-func same(x int) func(int) int { return func(int) int { return x } }
-
-// single: x at one place, and 0 at all others.
-func single(place, x int) func(int) int {
-	return func(i int) int {
-		if i == place {
-			return x
-		}
-		return 0
-	}
-}
-
-// drawn: numbers from -size to size.
-func drawn(rnd *rand.Rand, size int) func(int) int {
-	return func(int) int { return rnd.Intn(2*size+1) - size }
-}
-
-// edges: drawn numbers that are a bound each.
-func edges(rnd *rand.Rand) func(int) int {
-	return func(int) int { return bound - 2*bound*rnd.Intn(2) }
-}
-
 // signs: a bound each, that has the sign of the cosine of its place times k, parts further on: what makes a wave loudest.
 func signs(table *trig.Table, n, k, parts int) func(int) int {
 	return func(i int) int {
@@ -131,36 +101,36 @@ type input struct{ re, im []int }
 // inputs of n numbers: plain ones, one number at each place, ones at the bounds, ones that make a wave loudest, drawn ones.
 func inputs(table *trig.Table, n int) []input {
 	var l []input
-	add := func(re, im func(int) int) { l = append(l, input{filled(n, re), filled(n, im)}) }
+	add := func(re, im func(int) int) { l = append(l, input{lists.Filled(n, re), lists.Filled(n, im)}) }
 	for _, x := range []int{0, 1, -1, 7, bound - 1, bound, 1 - bound, -bound} {
 		for _, y := range []int{0, 1, -5, bound - 1, bound, -bound} {
-			add(same(x), same(y))
+			add(lists.Same(x), lists.Same(y))
 		}
 	}
 	for place := range n {
 		for _, x := range []int{1, -3, bound, -bound} {
-			add(single(place, x), same(0))
-			add(same(0), single(place, x))
-			add(single(place, x), single(place, bound))
+			add(lists.Single(place, x), lists.Same(0))
+			add(lists.Same(0), lists.Single(place, x))
+			add(lists.Single(place, x), lists.Single(place, bound))
 		}
 	}
-	add(func(i int) int { return i + 1 }, same(0))
+	add(func(i int) int { return i + 1 }, lists.Same(0))
 	add(func(i int) int { return i }, func(i int) int { return 3 - 2*i })
 	add(func(i int) int { return bound - i }, func(i int) int { return i - bound })
 	for k := range n {
 		for _, parts := range []int{0, 32, 64, 96, 128} {
-			add(signs(table, n, k, parts), same(0))
+			add(signs(table, n, k, parts), lists.Same(0))
 			add(signs(table, n, k, parts), signs(table, n, k, parts-128))
 			add(signs(table, n, k, parts), signs(table, n, k, parts+128))
 		}
 	}
 	rnd := rand.New(rand.NewSource(int64(9 + n)))
 	for range 100 {
-		add(drawn(rnd, 3), drawn(rnd, 3))
-		add(drawn(rnd, 1000), same(0))
-		add(drawn(rnd, 32768), drawn(rnd, 32768))
-		add(drawn(rnd, bound), drawn(rnd, bound))
-		add(edges(rnd), edges(rnd))
+		add(lists.Drawn(rnd.Intn, -3, 3), lists.Drawn(rnd.Intn, -3, 3))
+		add(lists.Drawn(rnd.Intn, -1000, 1000), lists.Same(0))
+		add(lists.Drawn(rnd.Intn, -32768, 32768), lists.Drawn(rnd.Intn, -32768, 32768))
+		add(lists.Drawn(rnd.Intn, -bound, bound), lists.Drawn(rnd.Intn, -bound, bound))
+		add(lists.Either(rnd.Intn, bound, -bound), lists.Either(rnd.Intn, bound, -bound))
 	}
 	return l
 }
@@ -243,7 +213,7 @@ func TestTableGiven(t *testing.T) {
 		kept := *table
 		for _, n := range counts() {
 			for range 50 {
-				checkWaves(t, table, input{filled(n, drawn(rnd, bound)), filled(n, drawn(rnd, bound))})
+				checkWaves(t, table, input{lists.Filled(n, lists.Drawn(rnd.Intn, -bound, bound)), lists.Filled(n, lists.Drawn(rnd.Intn, -bound, bound))})
 			}
 		}
 		if *table != kept {
@@ -260,7 +230,7 @@ func TestWildTable(t *testing.T) {
 			table[k] = x
 		}
 		for _, n := range counts() {
-			a, b := fft.Waves(table, filled(n, same(bound)), filled(n, same(-bound)))
+			a, b := fft.Waves(table, lists.Filled(n, lists.Same(bound)), lists.Filled(n, lists.Same(-bound)))
 			if len(a) != n || len(b) != n {
 				t.Errorf("Waves of %d numbers are %d and %d", n, len(a), len(b))
 			}
@@ -271,7 +241,7 @@ func TestWildTable(t *testing.T) {
 // TestNoTable: P9.1, of a nil table.
 func TestNoTable(t *testing.T) {
 	for _, n := range counts() {
-		checkNone(t, nil, filled(n, same(1)), filled(n, same(0)))
+		checkNone(t, nil, lists.Filled(n, lists.Same(1)), lists.Filled(n, lists.Same(0)))
 	}
 	checkNone(t, nil, nil, nil)
 	checkNone(t, nil, []int{1, 2, 3}, []int{4})
@@ -285,7 +255,7 @@ func TestNoCount(t *testing.T) {
 	checkNone(t, table, nil, []int{})
 	for n := range 301 {
 		if !slices.Contains(counts(), n) {
-			checkNone(t, table, filled(n, same(1)), filled(n, same(2)))
+			checkNone(t, table, lists.Filled(n, lists.Same(1)), lists.Filled(n, lists.Same(2)))
 		}
 	}
 	for _, n := range []int{512, 1024, 4096, 65536} {
@@ -297,8 +267,8 @@ func TestNoCount(t *testing.T) {
 func TestNotAsMany(t *testing.T) {
 	table := trig.Make()
 	for _, n := range counts() {
-		l := filled(n, same(1))
-		for _, other := range [][]int{nil, {}, l[:n-1], filled(n+1, same(1)), filled(2*n, same(1)), l[:n/2]} {
+		l := lists.Filled(n, lists.Same(1))
+		for _, other := range [][]int{nil, {}, l[:n-1], lists.Filled(n+1, lists.Same(1)), lists.Filled(2*n, lists.Same(1)), l[:n/2]} {
 			checkNone(t, table, l, other)
 			checkNone(t, table, other, l)
 		}
@@ -312,9 +282,9 @@ func TestNoPart(t *testing.T) {
 	for _, n := range counts() {
 		for place := range n {
 			for _, x := range bad {
-				checkNone(t, table, filled(n, single(place, x)), filled(n, same(0)))
-				checkNone(t, table, filled(n, same(0)), filled(n, single(place, x)))
-				checkNone(t, table, filled(n, single(place, x)), filled(n, single(n-1-place, x)))
+				checkNone(t, table, lists.Filled(n, lists.Single(place, x)), lists.Filled(n, lists.Same(0)))
+				checkNone(t, table, lists.Filled(n, lists.Same(0)), lists.Filled(n, lists.Single(place, x)))
+				checkNone(t, table, lists.Filled(n, lists.Single(place, x)), lists.Filled(n, lists.Single(n-1-place, x)))
 			}
 		}
 	}
@@ -325,7 +295,7 @@ func TestGivenStays(t *testing.T) {
 	table := trig.Make()
 	rnd := rand.New(rand.NewSource(9))
 	for _, n := range counts() {
-		re, im := filled(n, drawn(rnd, bound)), filled(n, drawn(rnd, bound))
+		re, im := lists.Filled(n, lists.Drawn(rnd.Intn, -bound, bound)), lists.Filled(n, lists.Drawn(rnd.Intn, -bound, bound))
 		keptRe, keptIm := slices.Clone(re), slices.Clone(im)
 		a, b := fft.Waves(table, re, im)
 		c, d := fft.Waves(table, re, re)

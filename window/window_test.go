@@ -6,6 +6,7 @@ import (
 	"slices"
 	"testing"
 
+	"splicer/lists"
 	"splicer/window"
 )
 
@@ -96,50 +97,14 @@ func sides() []side {
 	return []side{{"Left", window.Left, leftOf}, {"Right", window.Right, rightOf}}
 }
 
-// filled: n numbers, each told by its place.
-func filled(n int, at func(int) int) []int {
-	l := make([]int, n)
-	for i := range l {
-		l[i] = at(i)
-	}
-	return l
-}
-
-func eight(at func(int) int) [8]int { return [8]int(filled(8, at)) }
-
-func same(x int) func(int) int { return func(int) int { return x } }
-
-// single: x at one place, and 0 at all others.
-func single(place, x int) func(int) int {
-	return func(i int) int {
-		if i == place {
-			return x
-		}
-		return 0
-	}
-}
-
-// drawn: numbers from least to greatest.
-func drawn(rnd *rand.Rand, least, greatest int) func(int) int {
-	return func(int) int { return least + rnd.Intn(greatest-least+1) }
-}
-
-// edges: drawn numbers that are the one or the other each.
-func edges(rnd *rand.Rand, one, other int) func(int) int {
-	return func(int) int {
-		if rnd.Intn(2) == 0 {
-			return one
-		}
-		return other
-	}
-}
+func eight(at func(int) int) [8]int { return [8]int(lists.Filled(8, at)) }
 
 // inputs of n numbers from -bound to bound: small ones, one number at each place, ones at the bounds, drawn ones.
 func inputs(n, bound int) [][]int {
 	var l [][]int
-	add := func(at func(int) int) { l = append(l, filled(n, at)) }
+	add := func(at func(int) int) { l = append(l, lists.Filled(n, at)) }
 	for _, x := range []int{0, 1, -1, 2, 7, -13, 4096, -4096, bound - 1, bound, 1 - bound, -bound} {
-		add(same(x))
+		add(lists.Same(x))
 	}
 	add(func(i int) int { return i + 1 })
 	add(func(i int) int { return 3 - 2*i })
@@ -147,15 +112,15 @@ func inputs(n, bound int) [][]int {
 	add(func(i int) int { return i - bound })
 	for place := range n {
 		for _, x := range []int{1, -3, 1000, 4096, -4096, 8192, -8192, 32768, bound - 1, bound, -bound} {
-			add(single(place, x))
+			add(lists.Single(place, x))
 		}
 	}
 	rnd := rand.New(rand.NewSource(int64(11 + n)))
 	for range 300 {
 		for _, size := range []int{1, 9, 1000, 32768, bound} {
-			add(drawn(rnd, -size, size))
+			add(lists.Drawn(rnd.Intn, -size, size))
 		}
-		add(edges(rnd, -bound, bound))
+		add(lists.Either(rnd.Intn, -bound, bound))
 	}
 	return l
 }
@@ -218,7 +183,7 @@ func TestSlope(t *testing.T) {
 	if window.Slope() != slope() {
 		t.Fatalf("Slope() = %v once an answer was changed, want %v", window.Slope(), slope())
 	}
-	checkFold(t, filled(16, same(1<<15)), folded(filled(16, same(1<<15))))
+	checkFold(t, lists.Filled(16, lists.Same(1<<15)), folded(lists.Filled(16, lists.Same(1<<15))))
 }
 
 // TestFoldKnown: P11.1, of 2^15 at one place, which makes a number of the slope of it; at those that are not shared it
@@ -229,14 +194,14 @@ func TestFoldKnown(t *testing.T) {
 		{8, 4, 32764}, {9, 5, 32481}, {10, 6, 30792}, {11, 7, 26435}, {12, 7, -19363}, {13, 6, -11207}, {14, 5, -4325}, {15, 4, -494},
 	}
 	for _, c := range places {
-		checkFold(t, filled(16, single(c.place, 1<<15)), filled(8, single(c.at, c.want)))
+		checkFold(t, lists.Filled(16, lists.Single(c.place, 1<<15)), lists.Filled(8, lists.Single(c.at, c.want)))
 		if c.place >= 8 { // those behind a long block, and its last ones
 			c.place, c.at = c.place+56, c.at+56
 		}
-		checkFold(t, filled(72, single(c.place, 1<<15)), filled(64, single(c.at, c.want)))
+		checkFold(t, lists.Filled(72, lists.Single(c.place, 1<<15)), lists.Filled(64, lists.Single(c.at, c.want)))
 	}
 	for place := 8; place < 64; place++ {
-		checkFold(t, filled(72, single(place, 1<<15)), filled(64, single(place-4, 1<<15)))
+		checkFold(t, lists.Filled(72, lists.Single(place, 1<<15)), lists.Filled(64, lists.Single(place-4, 1<<15)))
 	}
 }
 
@@ -246,7 +211,7 @@ func TestFoldHalves(t *testing.T) {
 		{7, 4096, 3, 4096}, {7, -4096, 3, -4095}, {8, 4096, 4, 4096}, {8, -4096, 4, -4095},
 		{0, 8192, 3, 124}, {0, -8192, 3, -123}, {15, 8192, 4, -123}, {15, -8192, 4, 124},
 	} {
-		checkFold(t, filled(16, single(c.place, c.x)), filled(8, single(c.at, c.want)))
+		checkFold(t, lists.Filled(16, lists.Single(c.place, c.x)), lists.Filled(8, lists.Single(c.at, c.want)))
 	}
 }
 
@@ -265,7 +230,7 @@ func TestFoldSigns(t *testing.T) {
 		for bits := range 256 {
 			signs := signed(bits, maxFold)
 			for _, other := range []int{0, 1, maxFold, -maxFold} {
-				first, last := filled(n+8, same(other)), filled(n+8, same(other))
+				first, last := lists.Filled(n+8, lists.Same(other)), lists.Filled(n+8, lists.Same(other))
 				copy(first, signs[:])
 				copy(last[n:], signs[:])
 				both := slices.Clone(first)
@@ -297,8 +262,8 @@ func TestSideKnown(t *testing.T) {
 			if n-1-place < 4 {
 				wantRight = right[n-1-place]
 			}
-			checkSide(t, sides()[0], filled(n, single(place, 1)), wantLeft)
-			checkSide(t, sides()[1], filled(n, single(place, 1)), wantRight)
+			checkSide(t, sides()[0], lists.Filled(n, lists.Single(place, 1)), wantLeft)
+			checkSide(t, sides()[1], lists.Filled(n, lists.Single(place, 1)), wantRight)
 		}
 	}
 }
@@ -327,9 +292,9 @@ func TestMeetKnown(t *testing.T) {
 			if max(part, rest) > maxMeet || min(part, rest) < -maxMeet {
 				continue
 			}
-			checkMeet(t, eight(same(part)), eight(same(rest)), eight(same(c.want)))
+			checkMeet(t, eight(lists.Same(part)), eight(lists.Same(rest)), eight(lists.Same(c.want)))
 			for k := range 8 {
-				checkMeet(t, eight(single(k, part)), eight(single(k, rest)), eight(single(k, c.want)))
+				checkMeet(t, eight(lists.Single(k, part)), eight(lists.Single(k, rest)), eight(lists.Single(k, c.want)))
 			}
 		}
 	}
@@ -346,7 +311,7 @@ func TestMeetAll(t *testing.T) {
 	}
 	for range 2000 {
 		for _, size := range []int{1, 9, 16384, 100000, 1 << 39, maxMeet} {
-			left, right := eight(drawn(rnd, -size, size)), eight(drawn(rnd, -size, size))
+			left, right := eight(lists.Drawn(rnd.Intn, -size, size)), eight(lists.Drawn(rnd.Intn, -size, size))
 			checkMeet(t, left, right, met(left, right))
 		}
 	}
@@ -401,22 +366,22 @@ func TestComesBack(t *testing.T) {
 		for _, second := range blocks() {
 			n := first + second + 8
 			for _, x := range []int{0, 1, -1, low, high, low + 1} {
-				checkComesBack(t, first, second, filled(n, same(x)))
+				checkComesBack(t, first, second, lists.Filled(n, lists.Same(x)))
 				for k := range 8 {
-					checkComesBack(t, first, second, filled(n, single(first+k, x)))
+					checkComesBack(t, first, second, lists.Filled(n, lists.Single(first+k, x)))
 				}
 			}
 			for bits := range 256 {
-				x := filled(n, edges(rnd, low, high))
+				x := lists.Filled(n, lists.Either(rnd.Intn, low, high))
 				for k := range 8 {
 					x[first+k] = []int{low, high}[bits>>k&1]
 				}
 				checkComesBack(t, first, second, x)
 			}
 			for range 5000 {
-				checkComesBack(t, first, second, filled(n, drawn(rnd, low, high)))
-				checkComesBack(t, first, second, filled(n, drawn(rnd, -20, 20)))
-				checkComesBack(t, first, second, filled(n, edges(rnd, low, high)))
+				checkComesBack(t, first, second, lists.Filled(n, lists.Drawn(rnd.Intn, low, high)))
+				checkComesBack(t, first, second, lists.Filled(n, lists.Drawn(rnd.Intn, -20, 20)))
+				checkComesBack(t, first, second, lists.Filled(n, lists.Either(rnd.Intn, low, high)))
 			}
 		}
 	}
@@ -435,13 +400,13 @@ func TestNoBlock(t *testing.T) {
 	for _, n := range counts {
 		for _, x := range []int{0, 1, most} {
 			if !slices.Contains(blocks(), n-8) {
-				checkNone(t, filled(n, same(x)))
+				checkNone(t, lists.Filled(n, lists.Same(x)))
 			}
 			if slices.Contains(blocks(), n) {
 				continue
 			}
 			for _, s := range sides() {
-				checkSide(t, s, filled(n, same(x)), [8]int{})
+				checkSide(t, s, lists.Filled(n, lists.Same(x)), [8]int{})
 			}
 		}
 	}
@@ -453,14 +418,14 @@ func TestNoNumber(t *testing.T) {
 		for _, other := range []int{0, 1000} {
 			for _, bad := range outside(maxFold) {
 				for place := range n + 8 {
-					x := filled(n+8, same(other))
+					x := lists.Filled(n+8, lists.Same(other))
 					x[place] = bad
 					checkNone(t, x)
 				}
 			}
 			for _, bad := range outside(maxBlock) {
 				for place := range n {
-					u := filled(n, same(other))
+					u := lists.Filled(n, lists.Same(other))
 					u[place] = bad
 					for _, s := range sides() {
 						checkSide(t, s, u, [8]int{})
@@ -476,7 +441,7 @@ func TestGivenStays(t *testing.T) {
 	rnd := rand.New(rand.NewSource(11))
 	for _, n := range []int{7, 8, 16, 64, 72} {
 		for _, bad := range []int{1, most, least} {
-			x := filled(n, drawn(rnd, -maxFold, maxFold))
+			x := lists.Filled(n, lists.Drawn(rnd.Intn, -maxFold, maxFold))
 			x[n-1] = bad
 			kept := slices.Clone(x)
 			window.Left(x)

@@ -1,0 +1,33 @@
+package lists_test
+
+import (
+	"slices"
+	"testing"
+
+	"splicer/lists"
+)
+
+func check(t *testing.T, name string, got []int, want ...int) {
+	t.Helper()
+	if !slices.Equal(got, want) {
+		t.Errorf("%s: %v, want %v", name, got, want)
+	}
+}
+
+// byTurns draws the least and the greatest number that may be drawn, by turns.
+func byTurns() func(int) int {
+	turn := 0
+	return func(below int) int {
+		turn++
+		return turn % 2 * (below - 1)
+	}
+}
+
+func TestLists(t *testing.T) {
+	check(t, "Filled", lists.Filled(4, func(i int) int { return i * i }), 0, 1, 4, 9)
+	check(t, "Filled with none", lists.Filled(0, lists.Same(1)))
+	check(t, "Same", lists.Filled(3, lists.Same(-7)), -7, -7, -7)
+	check(t, "Single", lists.Filled(4, lists.Single(2, 5)), 0, 0, 5, 0)
+	check(t, "Drawn", lists.Filled(3, lists.Drawn(byTurns(), -3, 8)), 8, -3, 8)
+	check(t, "Either", lists.Filled(3, lists.Either(byTurns(), 10, 20)), 20, 10, 20)
+}
