@@ -58,11 +58,6 @@ func rows() [][]int {
 	return l
 }
 
-// beyond: numbers beyond all bounds, some of which look like those within them if they are cut short, or run over.
-func beyond() []int {
-	return []int{1 << 31, -1 << 31, 1<<32 + 4, 1<<32 + 8, -1<<32 + 8, 1 << 62, -1 << 62, least, least + 1, least + 8, least + 16, most - 16, most - 1, most}
-}
-
 func checkBand(t *testing.T, q, c, w, want int) {
 	t.Helper()
 	if got := alloc.Band(q, c, w); got != want {
@@ -119,8 +114,8 @@ func TestBand(t *testing.T) {
 
 // TestNoBand: P15.1, of numbers far beyond the bounds, alone and with one another.
 func TestNoBand(t *testing.T) {
-	all := append(beyond(), -1, 0, 1, 2, 4, 5, 8, 10, 11, 16, loud, 24, 32, 64)
-	for _, x := range beyond() {
+	all := append(lists.Beyond(), -1, 0, 1, 2, 4, 5, 8, 10, 11, 16, loud, 24, 32, 64)
+	for _, x := range lists.Beyond() {
 		for _, y := range all {
 			for _, z := range all {
 				checkBand(t, x, y, z, 0)
@@ -161,7 +156,7 @@ func TestAllByHand(t *testing.T) {
 
 // TestNoQuality: P15.1, All of qualities that there are not.
 func TestNoQuality(t *testing.T) {
-	for _, q := range append(beyond(), -1, 11, -2, 12, -10, loud, 64) {
+	for _, q := range append(lists.Beyond(), -1, 11, -2, 12, -10, loud, 64) {
 		for _, r := range [][]int{row(lists.Same(0)), row(lists.Same(8)), row(lists.Same(loud)), nil, {}} {
 			checkNone(t, q, r)
 		}
@@ -180,7 +175,7 @@ func TestNoRow(t *testing.T) {
 		}
 	}
 	for b := range bands {
-		for _, x := range append(beyond(), -1, 24, -2, 25, 64) {
+		for _, x := range append(lists.Beyond(), -1, 24, -2, 25, 64) {
 			for _, other := range []int{0, 8, loud} {
 				r := row(lists.Same(other))
 				r[b] = x
@@ -265,11 +260,6 @@ func TestBounds(t *testing.T) {
 // TestGivenStays: rules 0.5 and 7, what is given stays as it was, where there is no answer too, and what is told shares its
 // numbers neither with it nor with another answer.
 func TestGivenStays(t *testing.T) {
-	turn := func(l []int) {
-		for i := range l[:cap(l)] {
-			l[:cap(l)][i] = most
-		}
-	}
 	for _, q := range []int{-1, 0, 5, best, best + 1} {
 		for _, n := range []int{0, bands - 1, bands, bands + 1} {
 			for _, x := range []int{-1, 0, 12, loud, loud + 1} {
@@ -277,11 +267,11 @@ func TestGivenStays(t *testing.T) {
 				kept := slices.Clone(r)
 				first, second := alloc.All(q, r), alloc.All(q, r)
 				want := slices.Clone(second)
-				turn(first)
+				lists.Spoil(first)
 				if !slices.Equal(r, kept) {
 					t.Fatalf("what All was given changed: %v, want %v", r, kept)
 				}
-				turn(r)
+				lists.Spoil(r)
 				if !slices.Equal(second, want) {
 					t.Fatal("an answer of All changed with what it was given, or with another answer")
 				}

@@ -334,11 +334,6 @@ func TestRowDrawn(t *testing.T) {
 // TestGivenStays: rules 0.5 and 7, what is given stays as it was, and what is told turns neither with it nor with another
 // answer.
 func TestGivenStays(t *testing.T) {
-	turn := func(l []int) {
-		for i := range l[:cap(l)] {
-			l[:cap(l)][i] = most
-		}
-	}
 	for name, call := range map[string]func(intra bool, p, l []int) []int{
 		"Deltas": energy.Deltas,
 		"Row": func(intra bool, p, d []int) []int {
@@ -352,12 +347,12 @@ func TestGivenStays(t *testing.T) {
 				keptP, keptL := slices.Clone(p), slices.Clone(l)
 				first, second := call(intra, p, l), call(intra, p, l)
 				want := slices.Clone(second)
-				turn(first)
+				lists.Spoil(first)
 				if !slices.Equal(p, keptP) || !slices.Equal(l, keptL) {
 					t.Fatalf("what %s was given changed: %v, %v, want %v, %v", name, p, l, keptP, keptL)
 				}
-				turn(p)
-				turn(l)
+				lists.Spoil(p)
+				lists.Spoil(l)
 				if !slices.Equal(second, want) {
 					t.Fatalf("an answer of %s changed with what it was given, or with another answer", name)
 				}

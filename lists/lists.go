@@ -1,6 +1,8 @@
 // Package lists makes lists of numbers, which the tests of several layers give to what they test.
 package lists
 
+import "math"
+
 // Filled: n numbers, each told by its place.
 func Filled(n int, at func(int) int) []int {
 	l := make([]int, n)
@@ -35,5 +37,24 @@ func Either(draw func(int) int, one, other int) func(int) int {
 			return one
 		}
 		return other
+	}
+}
+
+// Beyond: numbers that lie beyond all bounds up to 2^30, some of which look like those within them if they are cut short, or
+// run over.
+func Beyond() []int {
+	return []int{
+		1 << 31, -1 << 31, 1 << 32, 1<<32 + 1, 1<<32 + 2, 1<<32 + 4, 1<<32 + 8, -1<<32 + 2, -1<<32 + 8,
+		1 << 60, -1 << 60, 1 << 61, 1<<61 + 1, -1 << 61, 1 << 62, 1<<62 + 1, -1 << 62, -1<<62 - 1,
+		math.MinInt, math.MinInt + 1, math.MinInt + 2, math.MinInt + 8, math.MinInt + 16, math.MinInt + 23, math.MinInt + 24,
+		math.MaxInt - 24, math.MaxInt - 16, math.MaxInt - 2, math.MaxInt - 1, math.MaxInt,
+	}
+}
+
+// Spoil writes over all of l's memory, also what lies behind its end, so that whoever shares some of it shows it.
+func Spoil(l []int) {
+	l = l[:cap(l)]
+	for i := range l {
+		l[i] = math.MaxInt
 	}
 }

@@ -1,6 +1,7 @@
 package lists_test
 
 import (
+	"math"
 	"slices"
 	"testing"
 
@@ -30,4 +31,28 @@ func TestLists(t *testing.T) {
 	check(t, "Single", lists.Filled(4, lists.Single(2, 5)), 0, 0, 5, 0)
 	check(t, "Drawn", lists.Filled(3, lists.Drawn(byTurns(), -3, 8)), 8, -3, 8)
 	check(t, "Either", lists.Filled(3, lists.Either(byTurns(), 10, 20)), 20, 10, 20)
+}
+
+// TestBeyond: all lie beyond 2^30, the farthest on both sides are among them, and each list is a new one.
+func TestBeyond(t *testing.T) {
+	l := lists.Beyond()
+	for _, x := range l {
+		if x >= -1<<30 && x <= 1<<30 {
+			t.Errorf("%d doesn't lie beyond 2^30", x)
+		}
+	}
+	if slices.Min(l) != math.MinInt || slices.Max(l) != math.MaxInt {
+		t.Errorf("Beyond: %d to %d", slices.Min(l), slices.Max(l))
+	}
+	lists.Spoil(l)
+	if slices.Equal(l, lists.Beyond()) {
+		t.Error("Beyond: a list that was written over came again")
+	}
+}
+
+func TestSpoil(t *testing.T) {
+	lists.Spoil(nil)
+	l := []int{1, 2, 3, 4}
+	lists.Spoil(l[1:2:3])
+	check(t, "Spoil", l, 1, math.MaxInt, math.MaxInt, 4)
 }

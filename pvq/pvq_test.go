@@ -99,13 +99,8 @@ func drawn(rnd *rand.Rand, n, k int) []int {
 	return x
 }
 
-// beyond: numbers beyond all bounds, some of which look like those within them if they are cut short, or run over.
-func beyond() []int {
-	return []int{
-		1 << 8, 1<<8 + 1, 1 << 31, -1 << 31, 1 << 32, 1<<32 + 2, -1<<32 + 2, 1 << 60, -1 << 60, 1 << 61, 1<<61 + 1, -1 << 61, 1 << 62, 1<<62 + 1, -1 << 62, -1<<62 - 1,
-		least, least + 1, least + 2, least + 24, most - 24, most - 2, most - 1, most,
-	}
-}
+// beyond: numbers beyond all bounds, also such as look like those within them if they are cut to an octet.
+func beyond() []int { return append(lists.Beyond(), 1<<8, 1<<8+1) }
 
 func checkCount(t *testing.T, n, k, want int) {
 	t.Helper()
@@ -438,9 +433,7 @@ func TestGivenStays(t *testing.T) {
 		for _, i := range []int{0, c[n][k] / 2, c[n][k] - 1} {
 			first, second := vector(t, n, k, i), vector(t, n, k, i)
 			want := slices.Clone(second)
-			for p := range first[:cap(first)] {
-				first[:cap(first)][p] = most
-			}
+			lists.Spoil(first)
 			if !slices.Equal(second, want) || !slices.Equal(vector(t, n, k, i), want) {
 				t.Fatalf("the pulses %d of %d numbers, %d from 0 in all, changed with another answer", i, n, k)
 			}

@@ -91,21 +91,6 @@ func coefficients(x []int, c, f int) []int {
 	return y
 }
 
-// beyond: numbers beyond all bounds, some of which look like those within them if they are cut short, or run over.
-func beyond() []int {
-	return []int{
-		1 << 27, 1 << 30, 1 << 31, -1 << 31, 1 << 32, 1<<32 + 1, 1<<32 + 4, -1<<32 + 2, 1 << 60, -1 << 60, 1 << 61, -1 << 61, 1 << 62, 1<<62 + 1, -1 << 62,
-		least, least + 1, least + 2, least + 23, most - 24, most - 1, most,
-	}
-}
-
-// turned: all of l's memory is written over.
-func turned(l []int) {
-	for i := range l[:cap(l)] {
-		l[:cap(l)][i] = most
-	}
-}
-
 func checkValues(t *testing.T, x []int, c, f int, want ...int) {
 	t.Helper()
 	if got, ok := shape.Values(x, c, f); !slices.Equal(got, want) || !ok {
@@ -207,8 +192,8 @@ func TestSilent(t *testing.T) {
 
 // TestNoBand: P17.1, of Coarses and Fines that there are not, alone and with one another, of pulses and of numbers 0.
 func TestNoBand(t *testing.T) {
-	noCoarse := append(beyond(), -1, coarse+1, -2, coarse+2, -coarse, 64)
-	noFine := append(beyond(), -1, fine+1, -2, fine+2, -fine, 64)
+	noCoarse := append(lists.Beyond(), -1, coarse+1, -2, coarse+2, -coarse, 64)
+	noFine := append(lists.Beyond(), -1, fine+1, -2, fine+2, -fine, 64)
 	for _, x := range [][]int{{0}, {1}, {0, 0}, {1, 0}, {3, -4}, make([]int, wide), {3, 3, 3, 3, 3, 3, 3, 3}} {
 		for _, c := range noCoarse {
 			for f := range fine + 1 {
@@ -232,7 +217,7 @@ func TestNoPulses(t *testing.T) {
 		nil, {}, make([]int, 0, wide), make([]int, wide+1), lists.Filled(wide+1, lists.Single(wide, 1)), make([]int, frame),
 		{full + 1}, {-full - 1}, {full, 1}, {full, -1}, {full, -full}, {13, -12}, {3, 3, 3, 3, 3, 3, 3, 4}, {-4, 3, 3, 3, 3, 3, 3, 3},
 	}
-	for _, x := range beyond() {
+	for _, x := range lists.Beyond() {
 		no = append(no, []int{x}, []int{x, x}, []int{x, -x}, lists.Filled(wide, lists.Same(x)))
 		for place := range 4 {
 			no = append(no, lists.Filled(4, lists.Single(place, x)))
@@ -294,7 +279,7 @@ func TestNoPower(t *testing.T) {
 			checkPower(t, lists.Filled(n, lists.Single(0, x)), 0)
 		}
 	}
-	no := append(beyond(), far+1, -far-1, far+2, -far-2, 2*far, -2*far)
+	no := append(lists.Beyond(), far+1, -far-1, far+2, -far-2, 2*far, -2*far, 1<<30)
 	for _, n := range []int{1, 2, 3, wide, frame - 1, frame, frame + 1} {
 		for place := range n {
 			for _, x := range no {
@@ -362,11 +347,11 @@ func TestGivenStays(t *testing.T) {
 			first, _ := shape.Values(x, c, 1)
 			second, _ := shape.Values(x, c, 1)
 			want := slices.Clone(second)
-			turned(first)
+			lists.Spoil(first)
 			if !slices.Equal(x, given) {
 				t.Fatalf("what shape was given changed: %v, want %v", x, given)
 			}
-			turned(x)
+			lists.Spoil(x)
 			if !slices.Equal(second, want) {
 				t.Fatalf("an answer of Values(%v, %d, 1) changed with what it was given, or with another answer", given, c)
 			}
