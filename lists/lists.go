@@ -1,7 +1,10 @@
 // Package lists makes lists of numbers, which the tests of several layers give to what they test.
 package lists
 
-import "math"
+import (
+	"math"
+	"slices"
+)
 
 // Filled: n numbers, each told by its place.
 func Filled(n int, at func(int) int) []int {
@@ -38,6 +41,21 @@ func Either(draw func(int) int, one, other int) func(int) int {
 		}
 		return other
 	}
+}
+
+// All: all lists of n numbers from least to greatest.
+func All(n, least, greatest int) [][]int {
+	l := [][]int{{}}
+	for range n {
+		var longer [][]int
+		for _, x := range l {
+			for v := least; v <= greatest; v++ {
+				longer = append(longer, append(slices.Clone(x), v))
+			}
+		}
+		l = longer
+	}
+	return l
 }
 
 // Beyond: numbers that lie beyond all bounds up to 2^30, some of which look like those within them if they are cut short, or

@@ -33,6 +33,23 @@ func TestLists(t *testing.T) {
 	check(t, "Either", lists.Filled(3, lists.Either(byTurns(), 10, 20)), 20, 10, 20)
 }
 
+// TestAll: each list comes once, and none of them changes with another one.
+func TestAll(t *testing.T) {
+	for n, want := range [][][]int{{{}}, {{-1}, {0}, {1}}, {{-1, -1}, {-1, 0}, {-1, 1}, {0, -1}, {0, 0}, {0, 1}, {1, -1}, {1, 0}, {1, 1}}} {
+		l := lists.All(n, -1, 1)
+		if !slices.EqualFunc(l, want, slices.Equal) {
+			t.Errorf("All of %d numbers: %v, want %v", n, l, want)
+		}
+		lists.Spoil(l[0])
+		if !slices.EqualFunc(l[1:], want[1:], slices.Equal) {
+			t.Errorf("All of %d numbers: a list changed with another one", n)
+		}
+	}
+	if l := lists.All(3, -4, 4); len(l) != 729 {
+		t.Errorf("All of 3 numbers from -4 to 4: %d lists, want 729", len(l))
+	}
+}
+
 // TestBeyond: all lie beyond 2^30, the farthest on both sides are among them, and each list is a new one.
 func TestBeyond(t *testing.T) {
 	l := lists.Beyond()

@@ -56,19 +56,7 @@ func pulses(x []int, k int) []int {
 }
 
 // small: all lists of n numbers from -4 to 4.
-func small(n int) [][]int {
-	l := [][]int{{}}
-	for range n {
-		var longer [][]int
-		for _, x := range l {
-			for v := -4; v <= 4; v++ {
-				longer = append(longer, append(slices.Clone(x), v))
-			}
-		}
-		l = longer
-	}
-	return l
-}
+func small(n int) [][]int { return lists.All(n, -4, 4) }
 
 // many: drawn lists of each count of numbers, near to 0, as far from it as they may be, and between; of some many are 0, or
 // as far from 0.
